@@ -93,3 +93,93 @@ func TestDecodedListsShareNoRoom(t *testing.T) {
 		}
 	}
 }
+
+// roomyPairs lays marks behind the pairs.
+func roomyPairs(pairs []api.Pair) []api.Pair {
+	room := append(slices.Clone(pairs), pairsOf("mark", "1", "abcdefg", "mark")...)
+	return room[:len(pairs):len(room)]
+}
+
+func TestTreeCallsWriteIntoNothing(t *testing.T) {
+	for _, was := range [][]api.Pair{
+		nil, staircase(), pairsOf("a", "x", "b", "y", "a", ""), pairsOf("b", letters(41), "a", "x"), pairsOf("abcdefg", "x"), make([]api.Pair, 61),
+	} {
+		pairs := roomyPairs(was)
+		room := slices.Clone(pairs[:cap(pairs)])
+		witness.Root(pairs)
+		witness.Prove(pairs, "abcdef")
+		if !slices.Equal(pairs[:cap(pairs)], room) {
+			t.Errorf("Root or Prove wrote into the pairs: %.100q, were %.100q", pairs[:cap(pairs)], room)
+		}
+	}
+	right := ownProof(ownTable(staircase()), "abcdef")
+	for _, key := range []string{"abcdef", "abcdeg", "", "abcdefg"} {
+		for n := range len(right) + 1 {
+			proof := slices.Clone(right)
+			witness.Verify(ownSum(right[0]), key, proof[:n])
+			if !slices.Equal(proof, right) {
+				t.Errorf("Verify wrote into the proof, or behind it: %.100q", proof)
+			}
+		}
+	}
+}
+
+// bentAll is bendable for many strings: change bends all of them.
+func bentAll(l []string) (bent []string, change func()) {
+	var room [][]byte
+	for _, s := range l {
+		x, b := bendable(s)
+		bent, room = append(bent, x), append(room, b)
+	}
+	return bent, func() {
+		for _, b := range room {
+			for i := range b {
+				b[i] = '?'
+			}
+		}
+	}
+}
+
+func TestTreeCallsAnswerNewMemory(t *testing.T) {
+	for _, was := range [][]string{{"a", "x"}, {"a", "x", "b", "y"}, {"a", letters(40), "ab", letters(40)}} {
+		want := ownProof(ownTable(pairsOf(was...)), "a")
+		bent, change := bentAll(was)
+		root, _ := witness.Root(pairsOf(bent...))
+		proof, _ := witness.Prove(pairsOf(bent...), bent[0])
+		change()
+		if root != ownSum(want[0]) || !slices.Equal(proof, want) {
+			t.Errorf("Root or Prove shares room with the pairs %.100q", was)
+		}
+	}
+	long := leafOf("1", letters(40))
+	for _, c := range []struct {
+		key, value string
+		way        []api.Item
+	}{
+		{"a", "x", []api.Item{leafOf("61", "x")}},
+		{"a", "x", []api.Item{branchOf("v", at{'6': leafOf("1", "x")})}},
+		{"a", letters(40), []api.Item{branchOf("v", at{'6': refTo(long)}), long}},
+		{"", "\xff", []api.Item{branchOf("\xff", at{'6': eight})}},
+		{"", letters(40), []api.Item{branchOf(letters(40), at{'6': eight})}},
+	} {
+		proof, change := bentAll(proofOf(c.way...))
+		got, found, e := witness.Verify(ownSum(proof[0]), c.key, proof)
+		change()
+		if got != c.value || !found || e != api.OK {
+			t.Errorf("Verify shares room with the proof, or is wrong: %.20q, %v, %d, want %q", got, found, e, c.value)
+		}
+	}
+}
+
+func TestTwoProofsShareNoRoom(t *testing.T) {
+	want := ownProof(ownTable(staircase()), "abcdef")
+	one, _ := witness.Prove(staircase(), "abcdef")
+	other, _ := witness.Prove(staircase(), "abcdef")
+	for i := range one[:cap(one)] {
+		one[:cap(one)][i] = "scribble"
+	}
+	again, _ := witness.Prove(staircase(), "abcdef")
+	if !slices.Equal(other, want) || !slices.Equal(again, want) {
+		t.Errorf("two proofs share room: %.100q", other)
+	}
+}

@@ -4,6 +4,7 @@ package witness
 import (
 	"witness/api"
 	"witness/items"
+	"witness/tree"
 )
 
 // Keeper keeps what was proved.
@@ -16,14 +17,14 @@ func Encode(x api.Item) (string, api.Errno) { return items.Encode(x) }
 func Decode(s string) (api.Item, api.Errno) { return items.Decode(s) }
 
 // Root tells the root of a table (P4).
-func Root(pairs []api.Pair) (string, api.Errno) { return "", api.OK }
+func Root(pairs []api.Pair) (string, api.Errno) { return tree.Root(pairs) }
 
 // Prove tells the proof for a key (P4).
-func Prove(pairs []api.Pair, key string) ([]string, api.Errno) { return nil, api.OK }
+func Prove(pairs []api.Pair, key string) ([]string, api.Errno) { return tree.Prove(pairs, key) }
 
 // Verify tells what a proof proves (P5).
 func Verify(root string, key string, proof []string) (string, bool, api.Errno) {
-	return "", false, api.OK
+	return tree.Verify(root, key, proof)
 }
 
 // Open makes a keeper (P6).
