@@ -33,12 +33,13 @@ func build(pairs []pair) Node {
 		return newLeaf(pairs[0].digits, pairs[0].value)
 	}
 	if start := sharedStart(pairs); start != "" {
-		return newExtension(start, build(behind(start, pairs)))
+		// Behind all that they share, several pairs always make a branch.
+		return newExtension(start, buildBranch(behind(start, pairs)))
 	}
 	return buildBranch(pairs)
 }
 
-func buildBranch(pairs []pair) Node {
+func buildBranch(pairs []pair) branchNode {
 	var to [manyDigits]reference
 	for d := range to {
 		to[d] = referenceTo(build(behind(oneDigit(d), pairs)))
@@ -81,13 +82,14 @@ func newLeaf(digits, value string) Node {
 	return leafNode{common{Leaf, x}, digits, value}
 }
 
-func newExtension(digits string, below Node) Node {
-	to := referenceTo(below)
+func newExtension(digits string, below branchNode) Node {
+	// By its sum: a branch is never short enough to stand here itself.
+	to := reference{sum: below.Sum(), node: below}
 	x := listItem(bytesItem(pathOf(digits, false)), to.item())
 	return extensionNode{common{Extension, x}, digits, to}
 }
 
-func newBranch(to [manyDigits]reference, value string) Node {
+func newBranch(to [manyDigits]reference, value string) branchNode {
 	var all []api.Item
 	for _, r := range to {
 		all = append(all, r.item())

@@ -1,5 +1,5 @@
 // Package tree puts tables into trees of nodes, proves what they have for a
-// key, and checks such proofs (P4, P5).
+// key, checks such proofs (P4, P5), and stores their nodes (for P7).
 package tree
 
 import (
@@ -32,6 +32,8 @@ type Node interface {
 	next(digits string) (to reference, rest string, ok bool)
 	// valueAt tells the value where a way ends, empty if there is none.
 	valueAt(digits string) string
+	// sums tells the sums in the node's references.
+	sums() []string
 }
 
 // common is what all kinds of nodes have; each of them embeds it.
@@ -59,6 +61,8 @@ func (c common) next(string) (reference, string, bool) {
 
 func (c common) valueAt(string) string { return "" }
 
+func (c common) sums() []string { return nil }
+
 type emptyNode struct{ common }
 
 type leafNode struct {
@@ -84,6 +88,8 @@ func (n extensionNode) next(digits string) (reference, string, bool) {
 	return n.to, rest, ok
 }
 
+func (n extensionNode) sums() []string { return []string{n.to.sum} }
+
 type branchNode struct {
 	common
 	to    [manyDigits]reference
@@ -99,6 +105,18 @@ func (n branchNode) next(digits string) (reference, string, bool) {
 
 // valueAt has no digits to look at: a way ends here only where none is left.
 func (n branchNode) valueAt(string) string { return n.value }
+
+// sums needs not look into the nodes that stand here themselves: they are too
+// short to have a sum in them.
+func (n branchNode) sums() []string {
+	var all []string
+	for _, r := range n.to {
+		if r.sum != "" {
+			all = append(all, r.sum)
+		}
+	}
+	return all
+}
 
 // reference refers to a node by its sum or, if the sum is empty, by the node
 // itself. In a tree that was built, the node stands beside its sum too.

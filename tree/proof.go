@@ -32,13 +32,21 @@ func proofFor(root Node, digits string) []string {
 
 // Verify tells what a proof tells for a key.
 func Verify(root, key string, proof []string) (string, bool, api.Errno) {
+	_, value, e := check(root, key, proof)
+	return value, value != "", e
+}
+
+// check tells the nodes of a proof, and the value that it tells for a key,
+// empty if there is none.
+func check(root, key string, proof []string) ([]Node, string, api.Errno) {
 	if e := proofFault(root, key, proof); e != api.OK {
-		return "", false, e
+		return nil, "", e
 	}
-	left, ok := readAll(proof)
+	nodes, ok := readAll(proof)
 	if !ok {
-		return "", false, api.ErrProof
+		return nil, "", api.ErrProof
 	}
+	left := nodes
 	value, ok := walk(reference{sum: root}, digitsOf(key), func(to reference) (Node, bool) {
 		if len(left) == 0 || left[0].Sum() != to.sum {
 			return nil, false
@@ -48,9 +56,9 @@ func Verify(root, key string, proof []string) (string, bool, api.Errno) {
 		return n, true
 	})
 	if !ok || len(left) > 0 {
-		return "", false, api.ErrProof
+		return nil, "", api.ErrProof
 	}
-	return value, value != "", api.OK
+	return nodes, value, api.OK
 }
 
 // tableFault goes through the keys of all pairs ahead of their values: of two
@@ -78,7 +86,7 @@ func tableFault(pairs []api.Pair, key string) api.Errno {
 // proofFault tells what is wrong with a proof before it is looked into.
 func proofFault(root, key string, proof []string) api.Errno {
 	switch {
-	case len(root) != sumSize:
+	case !IsRoot(root):
 		return api.ErrRoot
 	case isLongKey(key):
 		return api.ErrKey
@@ -92,5 +100,8 @@ func proofFault(root, key string, proof []string) api.Errno {
 	}
 	return api.OK
 }
+
+// IsRoot tells whether a string could be a root.
+func IsRoot(root string) bool { return len(root) == sumSize }
 
 func isLongKey(key string) bool { return len(key) > api.MaxKey }

@@ -200,22 +200,36 @@ func ownGo(to api.Item, digits string, left []string, fromExtension bool) (strin
 	return ownTell(next, digits, left[1:])
 }
 
-// ownTell tells what a way down from a node tells, and whether just what is
-// left of a proof is needed for it.
-func ownTell(node api.Item, digits string, left []string) (string, bool) {
+// ownNext tells the reference by which a way goes on from a node, and the
+// digits that are left then.
+func ownNext(node api.Item, digits string) (to api.Item, rest string, on bool) {
 	if isOwnExtension(node) {
 		for _, odd := range []string{"00", "1"} {
 			path, is := strings.CutPrefix(ownDigits(node.Items[0].Bytes), odd)
 			rest, ok := strings.CutPrefix(digits, path)
 			if is && ok {
-				return ownGo(node.Items[1], rest, left, true)
+				return node.Items[1], rest, true
 			}
 		}
 	}
 	if isOwnBranch(node) && digits != "" {
 		d := strings.IndexByte("0123456789abcdef", digits[0])
-		return ownGo(node.Items[d], digits[1:], left, false)
+		return node.Items[d], digits[1:], true
 	}
+	return api.Item{}, "", false
+}
+
+// ownTell tells what a way down from a node tells, and whether just what is
+// left of a proof is needed for it.
+func ownTell(node api.Item, digits string, left []string) (string, bool) {
+	if to, rest, on := ownNext(node, digits); on {
+		return ownGo(to, rest, left, isOwnExtension(node))
+	}
+	return ownValue(node, digits), len(left) == 0
+}
+
+// ownValue tells the value where a way ends.
+func ownValue(node api.Item, digits string) string {
 	value := ""
 	if isOwnBranch(node) {
 		value = node.Items[16].Bytes
@@ -223,7 +237,7 @@ func ownTell(node api.Item, digits string, left []string) (string, bool) {
 	if isOwnLeaf(node) && same(node, leafOf(digits, node.Items[1].Bytes)) {
 		value = node.Items[1].Bytes
 	}
-	return value, len(left) == 0
+	return value
 }
 
 // ownVerify is what P5 asks where nothing is too big.

@@ -4,11 +4,12 @@ package witness
 import (
 	"witness/api"
 	"witness/items"
+	"witness/keep"
 	"witness/tree"
 )
 
 // Keeper keeps what was proved.
-type Keeper struct{}
+type Keeper struct{ inner *keep.Keeper }
 
 // Encode writes an item as bytes (P3).
 func Encode(x api.Item) (string, api.Errno) { return items.Encode(x) }
@@ -28,24 +29,26 @@ func Verify(root string, key string, proof []string) (string, bool, api.Errno) {
 }
 
 // Open makes a keeper (P6).
-func Open() *Keeper { return nil }
+func Open() *Keeper { return &Keeper{inner: keep.New()} }
 
 // Trust lets a keeper trust a root (P6).
-func (k *Keeper) Trust(height int, root string) api.Errno { return api.OK }
+func (k *Keeper) Trust(height int, root string) api.Errno { return k.inner.Trust(height, root) }
 
 // Drop lets it trust one no more (P7).
-func (k *Keeper) Drop(height int) api.Errno { return api.OK }
+func (k *Keeper) Drop(height int) api.Errno { return k.inner.Drop(height) }
 
 // Offer gives it a proof (P7).
-func (k *Keeper) Offer(height int, key string, proof []string) api.Errno { return api.OK }
+func (k *Keeper) Offer(height int, key string, proof []string) api.Errno {
+	return k.inner.Offer(height, key, proof)
+}
 
 // Get tells what it knows of a key (P7).
 func (k *Keeper) Get(height int, key string) (string, bool, api.Errno) {
-	return "", false, api.OK
+	return k.inner.Get(height, key)
 }
 
 // Heads lists the roots that are trusted (P6).
-func (k *Keeper) Heads() []api.Head { return nil }
+func (k *Keeper) Heads() []api.Head { return k.inner.Heads() }
 
 // Kept tells how many nodes are kept (P7).
-func (k *Keeper) Kept() int { return 0 }
+func (k *Keeper) Kept() int { return k.inner.Kept() }
